@@ -5,6 +5,7 @@ import (
 	"math"
 	"math/rand"
 	"reflect"
+	"runtime/debug"
 	"slices"
 	"strconv"
 	"testing"
@@ -449,6 +450,8 @@ func answers(s net.State, p net.Packet) ([]net.State, [][2]uintptr) {
 
 // P4.4: what is handed in is not changed, and an answer shares no memory with it, with another answer, nor within itself.
 func TestMemory(t *testing.T) {
+	// Nothing is collected meanwhile: memory that nobody holds would come back in later answers.
+	defer debug.SetGCPercent(debug.SetGCPercent(-1))
 	// Lists that share memory go in as well: all lists of an answer are its own all the same.
 	one := octets(3, 20)
 	shared := net.State{Limit: 6, Packets: []net.Packet{{To: 1, Data: one}, {To: 1, Data: one}, {To: 2, Data: one[:5]}}}
